@@ -468,6 +468,10 @@ func TestMoves(t *testing.T) {
 	movesAre(t, old, now, bundleOf(t, turnOf(t, "Exc")), "Exc", "NullExc", "CastExc", "IndexExc", "DivExc", "StackExc", "MemExc", "LockExc", "B", "A", "Same")
 	movesAre(t, old, old, bundleOf(t, turnOf(t, "MemExc")), "MemExc")
 	movesAre(t, old, old, bundleOf(t, turnOf(t, "Object")), old.Names()...)
+	// Which one is below which is asked of the other table, as it is whose own a field is.
+	beside, below := tableOf(t, asm.New("A", "Object", "x I"), asm.New("B", "Object", "x I")), tableOf(t, asm.New("A", "Object", "x I"), asm.New("B", "A"))
+	movesAre(t, beside, below, bundleOf(t, turnOf(t, "A")), "A", "B")
+	movesAre(t, below, beside, bundleOf(t, turnOf(t, "A")), "A")
 	// Another field above is another Layout below, and no turn is needed.
 	more := tableOf(t, asm.New("B", "A", "y I", "b LB;"), asm.New("A", "Object", "x I", "ok B", "s S", "a LA;", "z I"), asm.New("Same", "Exc", "u I", "v [I"))
 	movesAre(t, old, more, api.Bundle{}, "B", "A")
